@@ -614,22 +614,31 @@ func TestParseTableRejects(t *testing.T) {
 	}
 }
 
+// byteChanges returns all strings that result if one byte is removed, inserted or replaced.
+func byteChanges(format string) []string {
+	var changes []string
+	for at := range len(format) + 1 {
+		if at < len(format) {
+			changes = append(changes, format[:at]+format[at+1:])
+		}
+		for value := range 256 {
+			added := string([]byte{byte(value)})
+			changes = append(changes, format[:at]+added+format[at:])
+			if at < len(format) {
+				changes = append(changes, format[:at]+added+format[at+1:])
+			}
+		}
+	}
+	return changes
+}
+
 // Each change of one byte is accepted exactly if the result is a format.
 func TestParseTableBytes(t *testing.T) {
 	for _, format := range []string{
 		"r2:", "r2:01 10", "a1:5", "z3:000 999", "r1:0 2 4 6 8", "r1:" + eightRows, "r2:" + eightPairs, "r3:" + eightTriples,
 	} {
-		for at := range len(format) + 1 {
-			if at < len(format) {
-				expectReferenceParse(t, format[:at]+format[at+1:])
-			}
-			for value := range 256 {
-				added := string([]byte{byte(value)})
-				expectReferenceParse(t, format[:at]+added+format[at:])
-				if at < len(format) {
-					expectReferenceParse(t, format[:at]+added+format[at+1:])
-				}
-			}
+		for _, s := range byteChanges(format) {
+			expectReferenceParse(t, s)
 		}
 	}
 }
