@@ -166,6 +166,12 @@ func badVariables() []int {
 	return []int{-1, -2, -4, 4, 5, 10, 31, 32, 63, 64, 65, 88, 128, 256, 257, -256, 1 << 32, 1<<32 + 1, -1 << 32, math.MaxInt, math.MinInt, math.MinInt + 1}
 }
 
+// masksOutside returns masks that are negative or have an atom beyond those of the full mask.
+func masksOutside(full int) []int {
+	masks := []int{-1, -2, -full, -full - 1, full + 1, full + 2, 2*full + 1, 16, 17, 31, 255, 1 << 31, 1<<32 + 1, 1<<62 + full, math.MaxInt, math.MaxInt - 1, math.MinInt, math.MinInt + 1, math.MinInt + full}
+	return slices.DeleteFunc(append(masks, nearPowers()...), func(mask int) bool { return 0 <= mask && mask <= full })
+}
+
 // unusedVariableQueries returns queries with a variable that occurs in no atom.
 func unusedVariableQueries() []query {
 	queries := []query{
@@ -587,11 +593,7 @@ func TestMasksOutOfRange(t *testing.T) {
 	for _, format := range queryFormats() {
 		q := queryOf(format)
 		full := 1<<len(q.Atoms) - 1
-		masks := []int{-1, -2, -full, -full - 1, full + 1, full + 2, 2*full + 1, 16, 17, 31, 255, 1 << 31, 1<<32 + 1, 1<<62 + full, math.MaxInt, math.MaxInt - 1, math.MinInt, math.MinInt + 1, math.MinInt + full}
-		for _, mask := range append(masks, nearPowers()...) {
-			if 0 <= mask && mask <= full {
-				continue
-			}
+		for _, mask := range masksOutside(full) {
 			expectMasked(t, q, mask, nil)
 			expectShared(t, q, mask, full, nil)
 			expectShared(t, q, mask, 1, nil)
