@@ -234,6 +234,18 @@ func invalidQueries() []query {
 	return slices.DeleteFunc(queries, isReferenceQuery)
 }
 
+// tablesFor returns an empty table for each name of the query, which need not be valid.
+func tablesFor(q query) database {
+	var db database
+	for _, in := range q.Atoms {
+		if found := slices.ContainsFunc(db.Tables, func(t table) bool { return t.Name == in.Name }); !found {
+			db.Tables = append(db.Tables, table{Name: in.Name, Arity: len(in.Vars)})
+		}
+	}
+	slices.SortFunc(db.Tables, func(a table, b table) int { return strings.Compare(a.Name, b.Name) })
+	return db
+}
+
 func expectVariables(t *testing.T, what string, got []int, want []int) {
 	t.Helper()
 	if !slices.Equal(got, want) {
@@ -482,13 +494,7 @@ func TestIsQueryForRefuses(t *testing.T) {
 			expectQueryFor(t, databaseFrom(format), invalid, false)
 		}
 		// As far as a name and an arity are valid, there is such a table.
-		var db database
-		for _, in := range invalid.Atoms {
-			if found := slices.ContainsFunc(db.Tables, func(t table) bool { return t.Name == in.Name }); !found {
-				db.Tables = append(db.Tables, table{Name: in.Name, Arity: len(in.Vars)})
-			}
-		}
-		expectQueryFor(t, db, invalid, false)
+		expectQueryFor(t, tablesFor(invalid), invalid, false)
 	}
 	for _, invalid := range invalidDatabases() {
 		for _, words := range []string{"r(X)", "r(XY)", "r(XYZ)", "s(X) s(Y)", "a(XY)", "z(YX)"} {
