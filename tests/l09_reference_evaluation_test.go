@@ -332,19 +332,24 @@ func TestAnswersAtTheLimits(t *testing.T) {
 	expectEvaluated(t, databaseFrom("a1:0 9;b1:0;c1:9;d1:;e1:5;z2:09 90"), queryOf("z(XY) z(YZ) a(X) c(Y)"), "059")
 }
 
-// Each pair of tables of two columns of two values, against the reference.
-func TestPairsOfTablesAgainstReference(t *testing.T) {
-	words := strings.Fields("00 01 10 11")
-	var bodies []string
-	for set := range 16 {
-		var rows []string
+// subsetsOf returns each subset of the words, separated by spaces. The last one contains all words.
+func subsetsOf(words []string) []string {
+	var subsets []string
+	for set := range 1 << len(words) {
+		var chosen []string
 		for i, word := range words {
 			if set>>i&1 == 1 {
-				rows = append(rows, word)
+				chosen = append(chosen, word)
 			}
 		}
-		bodies = append(bodies, strings.Join(rows, " "))
+		subsets = append(subsets, strings.Join(chosen, " "))
 	}
+	return subsets
+}
+
+// Each pair of tables of two columns of two values, against the reference.
+func TestPairsOfTablesAgainstReference(t *testing.T) {
+	bodies := subsetsOf(strings.Fields("00 01 10 11"))
 	for _, first := range bodies {
 		for _, second := range bodies {
 			db := databaseFrom("r2:" + first + ";s2:" + second)
